@@ -1,0 +1,90 @@
+// Package stamps: numbers that are never given twice, whatever the clocks say: see DOC.md.
+package stamps
+
+import (
+	"strconv"
+
+	"stamps/api"
+	"stamps/letters"
+	"stamps/number"
+)
+
+// Decimal tells a number's decimal text (P2).
+func Decimal(n uint64) (string, api.Errno) {
+	if !number.Is(n) {
+		return "", api.ErrRange
+	}
+	return strconv.FormatUint(n, 10), api.OK
+}
+
+// Short tells a number's short text (P2).
+func Short(n uint64) (string, api.Errno) {
+	if !number.Is(n) {
+		return "", api.ErrRange
+	}
+	return letters.Write(n), api.OK
+}
+
+// ParseDecimal reads a decimal text (P2).
+func ParseDecimal(text string) (uint64, api.Errno) {
+	n, err := strconv.ParseUint(text, 10, 64)
+	if err != nil || !number.Is(n) {
+		return 0, api.ErrText
+	}
+	// ParseUint lets noughts stand ahead; a number has one decimal text only.
+	if strconv.FormatUint(n, 10) != text {
+		return 0, api.ErrText
+	}
+	return n, api.OK
+}
+
+// ParseShort reads a short text (P2).
+func ParseShort(text string) (uint64, api.Errno) {
+	return letters.Read(text)
+}
+
+// Parts tells a number's parts (P2).
+func Parts(n uint64) (api.Parts, api.Errno) {
+	if !number.Is(n) {
+		return api.Parts{}, api.ErrRange
+	}
+	return number.Split(n), api.OK
+}
+
+// Range tells which numbers have times within (P3).
+func Range(from int, to int) (uint64, uint64, api.Errno) {
+	if from < 0 || from > to || to > api.MaxTime {
+		return 0, 0, api.ErrRange
+	}
+	return number.First(from), number.First(to), api.OK
+}
+
+// Desk gives numbers.
+type Desk struct{}
+
+// NewDesk makes a desk (P4).
+func NewDesk(lease api.Lease, borrow int) (*Desk, api.Errno) { return nil, api.OK }
+
+// Next gives a number (P5).
+func (d *Desk) Next(now int) (uint64, api.Errno) { return 0, api.OK }
+
+// Batch gives numbers (P5).
+func (d *Desk) Batch(now int, count int) ([]uint64, api.Errno) { return nil, api.OK }
+
+// Renew takes another lease (P6).
+func (d *Desk) Renew(lease api.Lease) api.Errno { return api.OK }
+
+// Given tells how many numbers were given (P4).
+func (d *Desk) Given() int { return 0 }
+
+// Office lends windows.
+type Office struct{}
+
+// NewOffice makes an office (P7).
+func NewOffice(journal string, span int) (*Office, api.Errno) { return nil, api.OK }
+
+// Lease lends a window (P8).
+func (o *Office) Lease(node int, now int) (api.Lease, api.Errno) { return api.Lease{}, api.OK }
+
+// Journal tells the journal (P8).
+func (o *Office) Journal() string { return "" }
