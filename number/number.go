@@ -23,6 +23,11 @@ func Split(n uint64) api.Parts {
 	}
 }
 
+// Join makes a number of its parts.
+func Join(p api.Parts) uint64 {
+	return First(p.Time) + uint64(p.Node)*api.Seqs + uint64(p.Seq)
+}
+
 // First tells the least number of a time; of MaxTime, which no number has, End.
 func First(time int) uint64 {
 	return uint64(time) * ofTime

@@ -59,24 +59,6 @@ func Range(from int, to int) (uint64, uint64, api.Errno) {
 	return number.First(from), number.First(to), api.OK
 }
 
-// Desk gives numbers.
-type Desk struct{}
-
-// NewDesk makes a desk (P4).
-func NewDesk(lease api.Lease, borrow int) (*Desk, api.Errno) { return nil, api.OK }
-
-// Next gives a number (P5).
-func (d *Desk) Next(now int) (uint64, api.Errno) { return 0, api.OK }
-
-// Batch gives numbers (P5).
-func (d *Desk) Batch(now int, count int) ([]uint64, api.Errno) { return nil, api.OK }
-
-// Renew takes another lease (P6).
-func (d *Desk) Renew(lease api.Lease) api.Errno { return api.OK }
-
-// Given tells how many numbers were given (P4).
-func (d *Desk) Given() int { return 0 }
-
 // Office lends windows.
 type Office struct{}
 
