@@ -2,6 +2,7 @@
 package letters
 
 import (
+	"strings"
 	"sync"
 
 	"stamps/api"
@@ -17,9 +18,10 @@ const (
 // firstEnd is just above the worth of a number's first letter: the other twelve hold 60 of its 63 bits.
 const firstEnd = number.End >> (bits * (length - 1))
 
-// none stands in the table for a byte that is no letter; no letter is worth as much.
+// none is told of a byte that is no letter; no letter is worth as much.
 const none = len(alphabet)
 
+// The table tells of a letter what worth tells. It stands beside it: no answer hangs on it.
 var (
 	tableOnce sync.Once
 	table     [128]uint8
@@ -57,6 +59,28 @@ func Read(text string) (uint64, api.Errno) {
 
 // worth tells what a letter is worth, or none.
 func worth(letter byte) int {
+	switch letter = great(letter); letter {
+	// These are left out of the alphabet because a hand mistakes them for digits.
+	case 'I', 'L':
+		return 1
+	case 'O':
+		return 0
+	}
+	if place := strings.IndexByte(alphabet, letter); place >= 0 {
+		return place
+	}
+	return none
+}
+
+func great(letter byte) byte {
+	if letter < 'a' || letter > 'z' {
+		return letter
+	}
+	return letter - 'a' + 'A'
+}
+
+// Tabled tells what a letter is worth by the table, or none.
+func Tabled(letter byte) int {
 	tableOnce.Do(fillTable)
 	if int(letter) >= len(table) {
 		return none
@@ -71,7 +95,6 @@ func fillTable() {
 	for i := range len(alphabet) {
 		enter(alphabet[i], i)
 	}
-	// These are left out of the alphabet because a hand mistakes them for digits.
 	enter('I', 1)
 	enter('L', 1)
 	enter('O', 0)

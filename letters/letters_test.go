@@ -10,18 +10,26 @@ import (
 // The first to ask may be many at a time: none of them is to see the table half filled.
 // (It stands first, so that nobody has asked before.)
 func TestTableIsWholeForAllWhoAskFirst(t *testing.T) {
-	var readers sync.WaitGroup
+	var askers sync.WaitGroup
 	for range 64 {
-		readers.Go(func() {
-			if n, e := Read("7zzzzzzzzzzzz"); n != 1<<63-1 || e != api.OK {
-				t.Errorf("read %d, %d", n, e)
+		askers.Go(func() {
+			if z, l, u := Tabled('z'), Tabled('L'), Tabled('u'); z != 31 || l != 1 || u != none {
+				t.Errorf("the table tells %d, %d, %d", z, l, u)
 			}
 		})
 	}
-	readers.Wait()
+	askers.Wait()
 }
 
-func TestTableHasNoOtherLetters(t *testing.T) {
+func TestFunctionTellsWhatTheTableTells(t *testing.T) {
+	for b := range 256 {
+		if w, tabled := worth(byte(b)), Tabled(byte(b)); w != tabled {
+			t.Errorf("of the byte %d the function tells %d, the table %d", b, w, tabled)
+		}
+	}
+}
+
+func TestThereAreNoOtherLetters(t *testing.T) {
 	letters := 0
 	for b := range 256 {
 		if worth(byte(b)) != none {
@@ -30,6 +38,20 @@ func TestTableHasNoOtherLetters(t *testing.T) {
 	}
 	// Ten digits, and the 26 letters but U, small and great.
 	if letters != 10+2*25 {
-		t.Errorf("%d letters in the table", letters)
+		t.Errorf("%d letters", letters)
+	}
+}
+
+// What is read hangs on the function alone: a table that tells otherwise changes nothing.
+func TestReadWorksWithoutTheTable(t *testing.T) {
+	Tabled('0')
+	whole := table
+	defer func() { table = whole }()
+	table = [128]uint8{}
+	if n, e := Read("oooooooo4o8o3"); n != 4202499 || e != api.OK {
+		t.Errorf("read %d, %d", n, e)
+	}
+	if n, e := Read("000000000000U"); n != 0 || e != api.ErrText {
+		t.Errorf("read %d, %d", n, e)
 	}
 }

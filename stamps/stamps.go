@@ -40,6 +40,10 @@ func ParseDecimal(text string) (uint64, api.Errno) {
 
 // ParseShort reads a short text (P2).
 func ParseShort(text string) (uint64, api.Errno) {
+	if text != "" {
+		// The document has the table filled when letters are first read; what it tells is not needed, since Read works without it.
+		letters.Tabled(text[0])
+	}
 	return letters.Read(text)
 }
 
