@@ -9,14 +9,16 @@ import (
 	"stamps/number"
 )
 
+// Length is how many letters every short text has.
+const Length = 13
+
 const (
 	alphabet = "0123456789ABCDEFGHJKMNPQRSTVWXYZ"
-	length   = 13
 	bits     = 5
 )
 
 // firstEnd is just above the worth of a number's first letter: the other twelve hold 60 of its 63 bits.
-const firstEnd = number.End >> (bits * (length - 1))
+const firstEnd = number.End >> (bits * (Length - 1))
 
 // none is told of a byte that is no letter; no letter is worth as much.
 const none = len(alphabet)
@@ -29,8 +31,8 @@ var (
 
 // Write tells the short text of a number.
 func Write(n uint64) string {
-	var text [length]byte
-	for i := length - 1; i >= 0; i-- {
+	var text [Length]byte
+	for i := Length - 1; i >= 0; i-- {
 		text[i] = alphabet[n%uint64(len(alphabet))]
 		n >>= bits
 	}
@@ -39,11 +41,11 @@ func Write(n uint64) string {
 
 // Read tells the number of a short text, be it copied by hand.
 func Read(text string) (uint64, api.Errno) {
-	if len(text) != length {
+	if len(text) != Length {
 		return 0, api.ErrText
 	}
 	n := uint64(0)
-	for i := range length {
+	for i := range Length {
 		w := worth(text[i])
 		if w == none {
 			return 0, api.ErrText

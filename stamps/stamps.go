@@ -62,15 +62,3 @@ func Range(from int, to int) (uint64, uint64, api.Errno) {
 	}
 	return number.First(from), number.First(to), api.OK
 }
-
-// Office lends windows.
-type Office struct{}
-
-// NewOffice makes an office (P7).
-func NewOffice(journal string, span int) (*Office, api.Errno) { return nil, api.OK }
-
-// Lease lends a window (P8).
-func (o *Office) Lease(node int, now int) (api.Lease, api.Errno) { return api.Lease{}, api.OK }
-
-// Journal tells the journal (P8).
-func (o *Office) Journal() string { return "" }
