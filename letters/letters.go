@@ -23,7 +23,7 @@ const firstEnd = number.End >> (bits * (Length - 1))
 // none is told of a byte that is no letter; no letter is worth as much.
 const none = len(alphabet)
 
-// The table tells of a letter what worth tells. It stands beside it: no answer hangs on it.
+// The table tells of a letter what worth tells. It stands beside it: nothing that is read hangs on it.
 var (
 	tableOnce sync.Once
 	table     [128]uint8
@@ -81,13 +81,13 @@ func great(letter byte) byte {
 	return letter - 'a' + 'A'
 }
 
-// Tabled tells what a letter is worth by the table, or none.
-func Tabled(letter byte) int {
+// Tabled tells by the table what a letter is worth.
+func Tabled(letter byte) (int, api.Errno) {
 	tableOnce.Do(fillTable)
-	if int(letter) >= len(table) {
-		return none
+	if int(letter) >= len(table) || int(table[letter]) == none {
+		return 0, api.ErrText
 	}
-	return int(table[letter])
+	return int(table[letter]), api.OK
 }
 
 func fillTable() {

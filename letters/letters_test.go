@@ -13,19 +13,29 @@ func TestTableIsWholeForAllWhoAskFirst(t *testing.T) {
 	var askers sync.WaitGroup
 	for range 64 {
 		askers.Go(func() {
-			if z, l, u := Tabled('z'), Tabled('L'), Tabled('u'); z != 31 || l != 1 || u != none {
-				t.Errorf("the table tells %d, %d, %d", z, l, u)
+			for _, letter := range []byte("zL0uU") {
+				checkTabled(t, letter)
 			}
 		})
 	}
 	askers.Wait()
 }
 
+// checkTabled holds what the table tells against what the function tells.
+func checkTabled(t *testing.T, letter byte) {
+	t.Helper()
+	want, wantErr := worth(letter), api.OK
+	if want == none {
+		want, wantErr = 0, api.ErrText
+	}
+	if tabled, e := Tabled(letter); tabled != want || e != wantErr {
+		t.Errorf("of the byte %d the function tells %d, %d, the table %d, %d", letter, want, wantErr, tabled, e)
+	}
+}
+
 func TestFunctionTellsWhatTheTableTells(t *testing.T) {
 	for b := range 256 {
-		if w, tabled := worth(byte(b)), Tabled(byte(b)); w != tabled {
-			t.Errorf("of the byte %d the function tells %d, the table %d", b, w, tabled)
-		}
+		checkTabled(t, byte(b))
 	}
 }
 

@@ -40,11 +40,12 @@ func ParseDecimal(text string) (uint64, api.Errno) {
 
 // ParseShort reads a short text (P2).
 func ParseShort(text string) (uint64, api.Errno) {
-	if text != "" {
-		// The document has the table filled when letters are first read; what it tells is not needed, since Read works without it.
-		letters.Tabled(text[0])
-	}
 	return letters.Read(text)
+}
+
+// LetterWorth tells what one letter of a short text is worth to ParseShort, 0 to 31; ErrText, if it is none. It is no call of the document: it is how the table is asked.
+func LetterWorth(letter byte) (int, api.Errno) {
+	return letters.Tabled(letter)
 }
 
 // Parts tells a number's parts (P2).

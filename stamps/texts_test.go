@@ -179,6 +179,22 @@ func TestP2EveryByteAtEveryPlaceOfAShortText(t *testing.T) {
 	}
 }
 
+// What the table tells of a byte is what ParseShort, which works without it, makes of it.
+func TestLetterWorthIsWhatParseShortReads(t *testing.T) {
+	worths := letterWorths()
+	for b := range 256 {
+		letter := byte(b)
+		want, wantErr := int(worths[letter]), api.OK
+		if _, isLetter := worths[letter]; !isLetter {
+			wantErr = api.ErrText
+		}
+		if worth, e := stamps.LetterWorth(letter); worth != want || e != wantErr {
+			t.Errorf("LetterWorth(%q) = %d, %d; want %d, %d", letter, worth, e, want, wantErr)
+		}
+		checkParseShort(t, "000000000000"+string([]byte{letter}), uint64(want), wantErr)
+	}
+}
+
 func TestP2ShortTextsCopiedByHand(t *testing.T) {
 	for text, want := range map[string]uint64{
 		"oooooooo4o8o3": 4202499,
